@@ -1,0 +1,1 @@
+"""Steps of a straight line through 0, exactly."""

@@ -1,0 +1,74 @@
+"""The interface's last part, and what can be seen of the language rules at a glance."""
+
+import ast
+import contextlib
+import inspect
+import io
+import unittest
+from pathlib import Path
+
+import linesteps
+from linesteps.slopes import height, sum_of
+
+FOLDER = Path(linesteps.__file__).parent
+FILES = sorted(FOLDER.glob("*.py"))
+
+
+def nodes():
+    for file in FILES:
+        for node in ast.walk(ast.parse(file.read_text(encoding="ascii"))):
+            yield file.name, node
+
+
+class Interface(unittest.TestCase):
+    def test_arguments(self):
+        for call in (height, sum_of):
+            self.assertEqual(list(inspect.signature(call).parameters), ["a", "b", "c", "d", "n"])
+
+    def test_arguments_by_name(self):
+        self.assertEqual(height(n=5, d=2, c=1, b=1, a=0), [7])
+        self.assertEqual(sum_of(n=5, d=2, c=1, b=1, a=0), [12])
+
+    def test_prints_nothing(self):
+        out, err = io.StringIO(), io.StringIO()
+        with contextlib.redirect_stdout(out), contextlib.redirect_stderr(err):
+            height(-1, 1, 2, 5, 1000)
+            sum_of(-1, 1, 2, 5, 1000)
+        self.assertEqual((out.getvalue(), err.getvalue()), ("", ""))
+
+
+class Rules(unittest.TestCase):
+    def test_nothing_else_lies_in_the_package(self):
+        others = [p.name for p in FOLDER.iterdir() if p not in FILES and p.name != "__pycache__"]
+        self.assertEqual(others, [])
+
+    def test_imports_only_its_own(self):
+        for name, node in nodes():
+            self.assertNotIsInstance(node, ast.Import, name)
+            if isinstance(node, ast.ImportFrom):
+                self.assertTrue(node.level == 0 and node.module.startswith("linesteps."), name)
+
+    def test_reads_and_prints_nothing(self):
+        for name, node in nodes():
+            if isinstance(node, ast.Name):
+                self.assertNotIn(node.id, {"print", "input", "open", "exec", "eval"}, name)
+
+    def test_no_float(self):
+        for name, node in nodes():
+            self.assertNotIsInstance(node, ast.Div, name)
+            if isinstance(node, ast.Constant):
+                self.assertNotIsInstance(node.value, (float, complex, bytes), name)
+
+    def test_sizes(self):
+        for file in FILES:
+            lines = file.read_text(encoding="ascii").split("\n")
+            self.assertLessEqual(len(lines), 400, file.name)
+            self.assertLessEqual(max(len(line) for line in lines), 120, file.name)
+            self.assertFalse(any("\t" in line for line in lines), file.name)
+        for name, node in nodes():
+            if isinstance(node, ast.FunctionDef):
+                self.assertLessEqual(node.end_lineno - node.lineno + 1, 40, (name, node.name))
+
+
+if __name__ == "__main__":
+    unittest.main()
