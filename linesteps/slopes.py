@@ -1,5 +1,8 @@
 """The calls on a line through 0 whose slope is (a + b times the root of d) / c."""
 
+# The last place that is looked at for a height or for a row of steps.
+LAST = 1000000
+
 
 def height(a, b, c, d, n):
     """Give back a list of one number: the height at n."""
@@ -12,6 +15,42 @@ def sum_of(a, b, c, d, n):
     for at in range(n):
         total = total + height_at(a, b, c, d, at)
     return [total]
+
+
+def reach(a, b, c, d, m):
+    """Give back a list of one number: the first place from 0 on whose height is m or more, or -1."""
+    if m <= 0:
+        return [0]
+    # A line that does not rise never gets above 0, so only upwards is looked.
+    found = first_as_far(a, b, c, d, m, 1)
+    if found > LAST:
+        return [-1]
+    return [found]
+
+
+def place(a, b, c, d, m):
+    """Give back a list of one number: the first place from 1 on whose height is m, or 0."""
+    way = 1
+    if height_at(a, b, c, d, 1) < 0:
+        way = -1
+    found = first_as_far(a, b, c, d, m, way)
+    if found <= LAST and height_at(a, b, c, d, found) == m:
+        return [found]
+    return [0]
+
+
+def first_as_far(a, b, c, d, m, way):
+    """Give back the first place from 1 on that is at m or beyond (way 1: above, -1: below), or LAST + 1."""
+    low = 1
+    high = LAST + 1
+    # A straight line never turns back: behind the first such place all are such, so halving finds it.
+    while low < high:
+        middle = (low + high) // 2
+        if way * (height_at(a, b, c, d, middle) - m) >= 0:
+            high = middle
+        else:
+            low = middle + 1
+    return low
 
 
 def height_at(a, b, c, d, n):

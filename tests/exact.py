@@ -15,6 +15,10 @@ ROOTS = (
     (999, -999, 998, 2),
 )
 SLOPES = FRACTIONS + ROOTS
+# The ends of the ranges of a, b, c and d, with 0 between.
+CORNERS = tuple(
+    (a, b, c, d) for a in (-1000, 0, 1000) for b in (-1000, 0, 1000) for c in (1, 1000) for d in (0, 1000)
+)
 
 
 def signed_square(x):
@@ -41,3 +45,16 @@ def true_height(a, b, c, d, n):
         else:
             high = middle
     return low
+
+
+def true_heights(slope, count):
+    """The heights at 0 up to count - 1, each one held against the definition."""
+    least = true_height(*slope, 1)
+    heights = [0]
+    for n in range(1, count):
+        h = heights[-1] + least
+        if not is_height(h, *slope, n):
+            h += 1
+        assert is_height(h, *slope, n)
+        heights.append(h)
+    return heights

@@ -8,10 +8,19 @@ import unittest
 from pathlib import Path
 
 import linesteps
-from linesteps.slopes import height, sum_of
+from linesteps import slopes
 
 FOLDER = Path(linesteps.__file__).parent
 FILES = sorted(FOLDER.glob("*.py"))
+
+# Each function, what it takes behind a, b, c, d, and one call with its answer.
+CALLS = (
+    ("height", {"n": 5}, [7]),
+    ("sum_of", {"n": 5}, [12]),
+    ("reach", {"m": 6}, [5]),
+    ("place", {"m": 7}, [5]),
+)
+ROOT_OF_2 = {"a": 0, "b": 1, "c": 1, "d": 2}
 
 
 def nodes():
@@ -22,18 +31,23 @@ def nodes():
 
 class Interface(unittest.TestCase):
     def test_arguments(self):
-        for call in (height, sum_of):
-            self.assertEqual(list(inspect.signature(call).parameters), ["a", "b", "c", "d", "n"])
+        for name, others, answer in CALLS:
+            taken = list(inspect.signature(getattr(slopes, name)).parameters)
+            self.assertEqual(taken, ["a", "b", "c", "d"] + list(others), name)
+
+    def test_arguments_in_order(self):
+        for name, others, answer in CALLS:
+            self.assertEqual(getattr(slopes, name)(0, 1, 1, 2, *others.values()), answer, name)
 
     def test_arguments_by_name(self):
-        self.assertEqual(height(n=5, d=2, c=1, b=1, a=0), [7])
-        self.assertEqual(sum_of(n=5, d=2, c=1, b=1, a=0), [12])
+        for name, others, answer in CALLS:
+            self.assertEqual(getattr(slopes, name)(**others, **ROOT_OF_2), answer, name)
 
     def test_prints_nothing(self):
         out, err = io.StringIO(), io.StringIO()
         with contextlib.redirect_stdout(out), contextlib.redirect_stderr(err):
-            height(-1, 1, 2, 5, 1000)
-            sum_of(-1, 1, 2, 5, 1000)
+            for name, others, answer in CALLS:
+                getattr(slopes, name)(**ROOT_OF_2, **others)
         self.assertEqual((out.getvalue(), err.getvalue()), ("", ""))
 
 
