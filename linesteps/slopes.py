@@ -39,6 +39,21 @@ def place(a, b, c, d, m):
     return [0]
 
 
+def steps(a, b, c, d, n, k):
+    """Give back a list: 0, then the steps at n up to n + k - 1."""
+    return [0] + steps_from(a, b, c, d, n, k)
+
+
+def find(a, b, c, d, w):
+    """Give back a list of one number: the first place from 0 on where w's numbers are the steps, or -1."""
+    row = steps_from(a, b, c, d, 0, len(w))
+    for n in range(LAST + 1):
+        if row == w:
+            return [n]
+        row = row[1:] + steps_from(a, b, c, d, n + len(w), 1)
+    return [-1]
+
+
 def first_as_far(a, b, c, d, m, way):
     """Give back the first place from 1 on that is at m or beyond (way 1: above, -1: below), or LAST + 1."""
     low = 1
@@ -51,6 +66,17 @@ def first_as_far(a, b, c, d, m, way):
         else:
             low = middle + 1
     return low
+
+
+def steps_from(a, b, c, d, n, k):
+    """Give back the k steps at n and behind it."""
+    found = []
+    here = height_at(a, b, c, d, n)
+    for at in range(n + 1, n + k + 1):
+        following = height_at(a, b, c, d, at)
+        found.append(following - here)
+        here = following
+    return found
 
 
 def height_at(a, b, c, d, n):

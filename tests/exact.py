@@ -58,3 +58,9 @@ def true_heights(slope, count):
         assert is_height(h, *slope, n)
         heights.append(h)
     return heights
+
+
+def true_steps(slope, count):
+    """The steps at 0 up to count - 1."""
+    heights = true_heights(slope, count + 1)
+    return [later - earlier for earlier, later in zip(heights, heights[1:])]
