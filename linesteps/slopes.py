@@ -54,6 +54,49 @@ def find(a, b, c, d, w):
     return [-1]
 
 
+def rows(a, b, c, d, k):
+    """Give back a list of one number: how many different rows of k steps the line has."""
+    # The row at n hangs on n's part behind the point alone. As the part goes up from 0 to 1, each of
+    # the k heights behind n's gets higher just once: k cuts, and k + 1 pieces with a row each.
+    # The parts of a slope that is no fraction come into every piece, if only far out.
+    if not is_fraction(b, d):
+        return [k + 1]
+    # A fraction's parts, and so its cuts, are only as many as its lower number says.
+    return [min(k + 1, c // common_factor(a + times_root(b, d), c))]
+
+
+def digits(a, b, c, d, k):
+    """Give back a list: how many digits of the slope are told, then they, the first k or all."""
+    if is_fraction(b, d):
+        told = first_digits(a + times_root(b, d), 0, c, d, k)
+    else:
+        told = first_digits(a, b, c, d, k)
+    return [len(told)] + told
+
+
+def first_digits(x, y, z, d, k):
+    """Give back the first k digits of (x + y times the root of d) / z, or all; y is 0 if it is a fraction."""
+    told = []
+    while len(told) < k:
+        whole = height_at(x, y, z, d, 1)
+        told.append(whole)
+        x = x - whole * z
+        if x == 0 and y == 0:
+            break
+        # 1 by what is left, with a whole number below the line again: both are taken times
+        # x less y roots. That is never 0: y is 0 and x is not, or there is no fraction.
+        below = x * x - y * y * d
+        x = x * z
+        y = -y * z
+        factor = common_factor(common_factor(x, y), below)
+        if below < 0:
+            factor = -factor
+        x = x // factor
+        y = y // factor
+        z = below // factor
+    return told
+
+
 def first_as_far(a, b, c, d, m, way):
     """Give back the first place from 1 on that is at m or beyond (way 1: above, -1: below), or LAST + 1."""
     low = 1
@@ -83,6 +126,24 @@ def height_at(a, b, c, d, n):
     """Give back n times the slope, rounded down."""
     # c is whole and above 0: rounding down ahead of the division as well changes nothing.
     return (n * a + times_root(n * b, d)) // c
+
+
+def is_fraction(b, d):
+    """Is b times the root of d a whole number?  If not, no slope with this b and d is a fraction."""
+    square = b * b * d
+    root = whole_root(square)
+    return root * root == square
+
+
+def common_factor(first, second):
+    """Give back the greatest number that divides both (0 or more; 0 only if both are 0)."""
+    first = abs(first)
+    second = abs(second)
+    while second > 0:
+        rest = first % second
+        first = second
+        second = rest
+    return first
 
 
 def times_root(factor, d):
