@@ -74,6 +74,63 @@ def digits(a, b, c, d, k):
     return [len(told)] + told
 
 
+def near(a, b, c, d, most):
+    """Give back a list: 0, then the p and the q (1 to most) for which q times the slope is nearest to p."""
+    best_p = height_at(a, b, c, d, 1)
+    best_q = 1
+    least = distance(a, b, c, d, best_p, best_q)
+    for q in range(1, most + 1):
+        low = height_at(a, b, c, d, q)
+        # Only the two whole numbers around q times the slope can be nearest to it.
+        for p in (low, low + 1):
+            away = distance(a, b, c, d, p, q)
+            # As near as the best is not enough: the least q, and of it the least p, came first.
+            if is_less(away, least, d):
+                best_p = p
+                best_q = q
+                least = away
+    return [0, best_p, best_q]
+
+
+def order(a, b, c, d, n):
+    """Give back a list: how many different jumps there are, then the places 0 up to n - 1 by their parts."""
+    placed = places_by_part(a, b, c, d, n)
+    # Index -1 is the last place: the jump from it to the first is among them.
+    jumps = [placed[i] - placed[i - 1] for i in range(n)]
+    return [len(set(jumps))] + placed
+
+
+def places_by_part(a, b, c, d, n):
+    """Give back the places 0 up to n - 1 in the order of their parts behind the point, the least first."""
+    placed = []
+    parts = []
+    for at in range(n):
+        part = distance(a, b, c, d, height_at(a, b, c, d, at), at)
+        spot = len(placed)
+        while spot > 0 and is_less(part, parts[spot - 1], d):
+            spot = spot - 1
+        placed.insert(spot, at)
+        parts.insert(spot, part)
+    return placed
+
+
+def distance(a, b, c, d, p, q):
+    """Give back how far q times the slope is from p, times c: whole x, y that stand for x + y times the root of d."""
+    x = q * a - p * c
+    y = q * b
+    if is_less((x, y), (0, 0), d):
+        return (-x, -y)
+    return (x, y)
+
+
+def is_less(first, second, d):
+    """Is the first number less than the second, each being x, y that stand for x + y times the root of d?"""
+    x = first[0] - second[0]
+    y = first[1] - second[1]
+    # A number is below 0 just if it is below 0 when rounded down: no root need be worked out further.
+    return x + times_root(y, d) < 0
+
+
 def first_digits(x, y, z, d, k):
     """Give back the first k digits of (x + y times the root of d) / z, or all; y is 0 if it is a fraction."""
     told = []

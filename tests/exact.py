@@ -1,4 +1,4 @@
-"""Heights straight from their definition, by comparisons alone: no root is ever worked out."""
+"""Heights and comparisons straight from their definitions, by squares alone: no root is ever worked out."""
 
 # Fractions: b = 0, d = 0, d a square, and whole slopes among them.
 FRACTIONS = (
@@ -28,6 +28,12 @@ def signed_square(x):
 def at_most_line(h, a, b, c, d, n):
     """Is h no more than n times the slope?  That is: c h - n a <= n b times the root of d."""
     return signed_square(c * h - n * a) <= signed_square(n * b) * d
+
+
+def sign_of(x, y, d):
+    """-1, 0 or 1: on which side of 0 x + y times the root of d lies."""
+    one, other = signed_square(x), signed_square(-y) * d
+    return (one > other) - (one < other)
 
 
 def is_height(h, a, b, c, d, n):

@@ -10,7 +10,8 @@ from tests.exact import CORNERS, ROOTS, true_height, true_steps
 SMALL = (
     (0, 0, 1, 0), (0, 0, 60, 1000), (1000, 0, 1, 7), (-1000, 1000, 1, 0), (5, 7, 1, 961), (-6, 3, 4, 4), (59, 0, 60, 5),
     (-59, 0, 60, 5), (30, 0, 60, 0), (45, 9, 60, 0), (-44, 3, 60, 0), (1, 2, 6, 4), (1, -2, 6, 4), (-1, -2, 55, 9),
-    (-1, 2, 49, 9), (1000, 1000, 59, 961), (-1000, -1000, 59, 961), (999, -1000, 60, 1), (7, 3, 12, 25), (1, 1, 31, 900),
+    (-1, 2, 49, 9), (1000, 1000, 59, 961), (-1000, -1000, 59, 961), (999, -1000, 60, 1), (7, 3, 12, 25),
+    (1, 1, 31, 900),
 )
 
 
@@ -42,7 +43,7 @@ class WorkedOut(unittest.TestCase):
         self.assertEqual([rows(40, 0, 60, 0, k) for k in (1, 2, 3, 60)], [[2], [3], [3], [3]])
 
     def test_whole_slopes(self):
-        for slope in ((0, 0, 1, 0), (0, 0, 60, 9), (-6, 3, 5, 4), (60, 0, 60, 0), (-60, 0, 60, 0), (1000, 1000, 1, 961)):
+        for slope in ((0, 0, 1, 0), (0, 0, 60, 9), (-6, 3, 5, 4), (60, 0, 60, 0), (-60, 0, 60, 0), (9, 1000, 1, 961)):
             self.assertEqual([rows(*slope, k) for k in (1, 2, 60)], [[1], [1], [1]], slope)
 
     def test_root_of_2(self):
@@ -66,10 +67,11 @@ class Counted(unittest.TestCase):
     def test_every_c_and_k(self):
         for c in range(1, 61):
             low = Fraction(31, c).denominator
-            self.assertEqual([rows(31, 0, c, 0, k)[0] for k in range(1, 61)], [min(k + 1, low) for k in range(1, 61)], c)
+            for k in range(1, 61):
+                self.assertEqual(rows(31, 0, c, 0, k), [min(k + 1, low)], (c, k))
 
     def test_no_fractions(self):
-        for slope in ((0, 1, 1, 2), (0, -1, 1, 2), (1, 1, 2, 5), (-1, -1, 2, 5), (3, 2, 7, 3), (3, -2, 7, 3), (0, 8, 12, 8)):
+        for slope in ((0, 1, 1, 2), (0, -1, 1, 2), (1, 1, 2, 5), (-1, -1, 2, 5), (3, 2, 7, 3), (3, -2, 7, 3)):
             for k in (1, 2, 3, 4, 10, 25):
                 self.assertEqual(rows(*slope, k), [counted(slope, k, 3000)], (slope, k))
 
@@ -85,10 +87,10 @@ class NoFraction(unittest.TestCase):
             self.assertEqual(rows(1, -1000, 60, d, 1000), [1001], d)
 
     def test_rows_that_first_stand_far_out(self):
-        # 44 times the root of 485 is 969.0005159..., so the first step up stands behind 1000000.
-        for slope, at in (((-969, 44, 1000, 485), 1937998), ((969, -44, 1000, 485), 1937998)):
+        # 44 times the root of 485 is 968.99948..., so the next step that is not 0 stands behind 1000000.
+        for slope in ((969, -44, 1000, 485), (-969, 44, 1000, 485)):
             for k in (1, 2, 9):
-                places = [0, 1000] + list(range(at - k, at + 2))
+                places = [0, 1000] + list(range(1937998 - k, 1938000))
                 self.assertEqual(rows(*slope, k), [len(rows_at(slope, k, places))], (slope, k))
         # 1000 less 127 times the root of 62 is 0.00100000025...
         self.assertEqual(len(rows_at((1000, -127, 50, 62), 60, [0] + list(range(49940, 50000)))), 61)
